@@ -1,10 +1,7 @@
 // Package scangen: scanners out of rules: see DOC.md.
 package scangen
 
-import (
-	"scangen/api"
-	"scangen/places"
-)
+import "scangen/places"
 
 // Tables are made of rules.
 type Tables struct{ machine *places.Machine }
@@ -17,17 +14,3 @@ func (t *Tables) Encode() string { return "" }
 
 // Load reads them (P8).
 func Load(s string) (*Tables, error) { return nil, nil }
-
-// Scanner cuts what a reader gives into tokens.
-type Scanner struct{}
-
-// Scan makes a scanner (P9).
-func (t *Tables) Scan(r api.Reader, capacity int) (*Scanner, error) { return nil, nil }
-
-// Next gives the next token (P10, P11).
-func (s *Scanner) Next() (api.Token, error) { return api.Token{}, nil }
-
-// Tokens goes through the tokens, and the error behind the last one (P12).
-func (s *Scanner) Tokens() func(yield func(t api.Token, err error) bool) {
-	return func(yield func(t api.Token, err error) bool) {}
-}
