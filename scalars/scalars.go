@@ -7,10 +7,10 @@ import (
 	"unicode/utf8"
 )
 
-// The numbers from firstSurrogate to lastSurrogate are no scalars.
+// The numbers from FirstSurrogate to LastSurrogate are no scalars.
 const (
-	firstSurrogate = 0xD800
-	lastSurrogate  = 0xDFFF
+	FirstSurrogate = 0xD800
+	LastSurrogate  = 0xDFFF
 )
 
 // Range is the numbers from Low to High, both among them; with High below Low it is none.
@@ -23,8 +23,8 @@ type Set []Range
 func Of(ranges ...Range) Set {
 	var parts []Range
 	for _, r := range ranges {
-		parts = addRange(parts, r.Low, min(r.High, firstSurrogate-1))
-		parts = addRange(parts, max(r.Low, lastSurrogate+1), r.High)
+		parts = addRange(parts, r.Low, min(r.High, FirstSurrogate-1))
+		parts = addRange(parts, max(r.Low, LastSurrogate+1), r.High)
 	}
 	slices.SortFunc(parts, func(a, b Range) int { return cmp.Compare(a.Low, b.Low) })
 	return joined(parts)
